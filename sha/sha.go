@@ -49,11 +49,7 @@ func (d *Digest) Sum() api.Hash {
 		return api.Hash{}
 	}
 	end := *d
-	if end.length == 0 {
-		end.words = firstWords()
-	}
-	end.finish()
-	return end.hash()
+	return end.finish()
 }
 
 // Len tells how many bytes were written.
@@ -68,11 +64,14 @@ func (d *Digest) Len() int {
 func Sum(s string) api.Hash {
 	var d Digest
 	d.Write(s)
-	return d.Sum()
+	return d.finish()
 }
 
-// finish mixes the padding: a bit 1, bits 0, the length in bits.
-func (d *Digest) finish() {
+// finish mixes the padding (a bit 1, bits 0, the length in bits) and tells the words as bytes.
+func (d *Digest) finish() api.Hash {
+	if d.length == 0 {
+		d.words = firstWords()
+	}
 	at := d.length % blockSize
 	d.rest[at] = 0x80
 	clear(d.rest[at+1:])
@@ -85,10 +84,6 @@ func (d *Digest) finish() {
 		d.rest[lengthAt+i] = byte(bits >> (56 - 8*i))
 	}
 	mix(&d.words, &d.rest)
-}
-
-// hash tells the words as bytes.
-func (d *Digest) hash() api.Hash {
 	var h api.Hash
 	for i, word := range d.words {
 		h[4*i] = byte(word >> 24)
