@@ -216,6 +216,34 @@ func TestWrongEntries(t *testing.T) {
 	}
 }
 
+// P20.2: of the first entry the tables are held against those of the begin, the vector against zeros.
+func TestFirstEntry(t *testing.T) {
+	k, own := signers(t, group(), 2)
+	c := newChain(t, k)
+	for principal := range 5 {
+		e, _ := c.Next(1, begin(t, k.Members))
+		e.Tables[principal][0]++
+		want := api.ErrChainTables
+		if principal == 1 || principal == 3 {
+			want = api.OK
+		}
+		if got := c.Check(sign(t, e, own)); got != want {
+			t.Errorf("the table of %d: error %d, not %d", principal, got, want)
+		}
+	}
+	e, _ := c.Next(1, begin(t, k.Members))
+	for i, vec := range [][]int{{0, 0, 0}, {1, 0, 0}, {0, 2, 0}, {1, 1, 0}} {
+		e.Vec = vec
+		if got := c.Check(sign(t, e, own)); got != api.ErrChainVec {
+			t.Errorf("vector %d: error %d", i, got)
+		}
+	}
+	e.Vec, e.Root = []int{0, 1, 0}, api.Hash{}
+	if got := c.Check(sign(t, e, own)); got != api.ErrChainRoot {
+		t.Errorf("no root: error %d", got)
+	}
+}
+
 // P20.2: signatures that are none.
 func TestWrongSigns(t *testing.T) {
 	k, own := signers(t, group(), 2)

@@ -255,6 +255,10 @@ func TestCommit(t *testing.T) {
 	if !ok || !reflect.DeepEqual(last, want) {
 		t.Error("the last entry is another one")
 	}
+	w.begins(c, 0, stat, 1)
+	if m := w.proposes(c, api.Msg{Kind: api.MsgEntries, From: 1}); len(m.Objects) != 0 || !same(c.State(), after) {
+		t.Errorf("%d objects are handed over again", len(m.Objects))
+	}
 }
 
 // P24.3: a call that the model refuses is committed too; its answer has a Code.
@@ -313,6 +317,7 @@ func TestWrongReplies(t *testing.T) {
 		}, []api.Msg{
 			log, objs, {Kind: api.MsgAppend, User: 2}, with(done, func(m *api.Msg) { m.User = 1 }), with(done, func(m *api.Msg) { m.From = 2 }),
 			with(done, func(m *api.Msg) { m.From = 4 }), with(done, func(m *api.Msg) { m.From = 0 }), with(busy, func(m *api.Msg) { m.User = 1 }),
+			{Kind: api.MsgEntries, User: 2, From: 3}, {Kind: api.MsgObjects, User: 2, From: 3}, {Kind: api.MsgFetch, User: 2, From: 3},
 		}},
 	}
 	for _, x := range to {
@@ -496,7 +501,8 @@ func TestFullLog(t *testing.T) {
 	for i := range api.MaxLog {
 		w.adds(i%16, w.tables())
 	}
-	c := w.client(5, newDisk(t, 9))
+	d := newDisk(t, 9)
+	c := w.client(5, d)
 	w.begins(c, 5, stat, 0)
 	for at := 0; at < api.MaxLog-2; at += 10 {
 		to := min(at+10, api.MaxLog-2)
@@ -504,8 +510,8 @@ func TestFullLog(t *testing.T) {
 	}
 	m := w.entries(5, api.MaxLog-2, api.MaxLog)
 	w.refuses(c, w.put(m))
-	if c.View().Next != 0 || c.View().Log.Size != api.MaxLog-2 {
-		t.Errorf("next %d, %d entries", c.View().Next, c.View().Log.Size)
+	if c.View().Next != 0 || c.View().Log.Size != api.MaxLog-2 || len(records(d)) != 0 {
+		t.Errorf("next %d, %d entries, %d records", c.View().Next, c.View().Log.Size, len(records(d)))
 	}
 }
 

@@ -57,6 +57,11 @@ func TestErrorsStay(t *testing.T) {
 	if r.Num(1) != 0 || r.Done() {
 		t.Error("another mark")
 	}
+	r = codec.Open("ab")
+	r.Mark("ac")
+	if r.Done() {
+		t.Error("another mark, all read")
+	}
 	r = codec.Open("\x05a")
 	if got := codec.Items(r, 1, func() int { return r.Num(1) }); got != nil || r.Done() {
 		t.Errorf("a list that is cut: %v", got)

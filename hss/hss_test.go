@@ -197,6 +197,8 @@ func TestVerifyForm(t *testing.T) {
 		{"no public", "", "a", sign},
 		{"a public too short", public[:59], "a", sign},
 		{"a public too long", public + "a", "a", sign},
+		{"a public of a number alone", u32(2), "a", sign},
+		{"a public of a type alone", public[:8], "a", sign},
 		{"one level", u32(1) + public[4:], "a", sign},
 		{"a public of no type", public[:4] + u32(6) + public[8:], "a", sign},
 		{"a public of no kind", public[:8] + u32(2) + public[12:], "a", sign},

@@ -202,6 +202,9 @@ func TestVerifyForm(t *testing.T) {
 		{"q too great", public, "a", u32(4) + sign[4:]},
 		{"q the greatest", public, "a", u32(1<<32-1) + sign[4:]},
 		{"a message too long", public, strings.Repeat("a", api.MaxText+1), sign},
+		{"a type that is none, of no nodes", u32(6) + public[4:], "a", u32(0) + sign[4:end-4] + u32(6)},
+		{"a kind that is none, of no parts", public[:4] + u32(9) + public[8:], "a", u32(1) + u32(9) + sign[8:40] + sign[end-4:]},
+		{"a kind that is none, of neither", public[:4] + u32(9) + public[8:], "a", u32(1) + sign[end-4:]},
 	}
 	for _, c := range cases {
 		if e := lms.Verify(c.public, c.msg, c.sign); e != api.ErrLmsForm {

@@ -29,7 +29,7 @@ func sample() api.State {
 		{
 			{Num: 1, Kind: api.KindDir, Mode: api.ModeRead, Links: 1, Ents: []api.Dirent{
 				entry("a", 0, 2), entry("b", 1, 1), entry("c", 1, 2), entry("d", 0, 3), entry("g", 3, 1),
-				entry("h", 1, 3), entry("n", 2, 9), entry("s", 1, 4), entry("t", 23, 1), entry("u", 2, 1),
+				entry("h", 1, 3), entry("n", 2, 9), entry("s", 1, 4), entry("t", 5, 1), entry("u", 2, 1),
 			}},
 			{Num: 2, Kind: api.KindFile, Links: 2, Data: "hello"},
 			{Num: 3, Kind: api.KindDir, Links: 1, Ents: []api.Dirent{entry("e", 0, 4), entry("f", 0, 6)}},

@@ -398,7 +398,8 @@ func TestListsAreApart(t *testing.T) {
 func TestNilServer(t *testing.T) {
 	var s *server.Server
 	user, ok := s.Holder()
-	if s.Take("a") != "" || s.Tick(1) != api.ErrNil || s.Entries() != nil || !reflect.DeepEqual(s.Log(), api.Log{}) || user != 0 || ok {
+	fetch, _ := msgs.Put(api.Msg{Kind: api.MsgFetch})
+	if s.Take(fetch) != "" || s.Tick(1) != api.ErrNil || s.Entries() != nil || !reflect.DeepEqual(s.Log(), api.Log{}) || user != 0 || ok {
 		t.Error("a nil server")
 	}
 }
